@@ -257,14 +257,19 @@ func TestDbOk(t *testing.T) {
 	}
 }
 
-// family has two parents, one of them with another Text for a while, and a
+// familyTxs make two parents, one of them with another Text for a while, and a
 // child of each.
-func family(t *testing.T) impl.Db {
-	t.Helper()
-	return played(t,
+func familyTxs() [][]impl.Op {
+	return [][]impl.Op{
 		tx(insertOp(0, row("p", "x", 10, 30)), insertOp(0, row("q", "x", 0, 100))),
 		tx(insertOp(1, row("a", "p", 15, 25)), insertOp(1, row("b", "q", 0, 100))),
-		tx(updateOp(0, row("p", "y", 18, 20))))
+		tx(updateOp(0, row("p", "y", 18, 20))),
+	}
+}
+
+func family(t *testing.T) impl.Db {
+	t.Helper()
+	return played(t, familyTxs()...)
 }
 
 // someOps has each kind at the edges of family's rows, in both tables.
