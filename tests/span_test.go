@@ -41,10 +41,8 @@ func setWhere(holds func(at int) bool) []impl.Span {
 	return list
 }
 
-// edgeSpans has periods that overlap, contain each other, touch and lie apart,
-// at the first points, at the last ones, and across all of them.
-func edgeSpans() []impl.Span {
-	bounds := []int{0, 1, 2, 3, 50, 97, 98, 99, 100}
+// spansBetween has a period for each two of the bounds, which are ascending.
+func spansBetween(bounds ...int) []impl.Span {
 	var list []impl.Span
 	for i, from := range bounds {
 		for _, to := range bounds[i+1:] {
@@ -52,6 +50,12 @@ func edgeSpans() []impl.Span {
 		}
 	}
 	return list
+}
+
+// edgeSpans has periods that overlap, contain each other, touch and lie apart,
+// at the first points, at the last ones, and across all of them.
+func edgeSpans() []impl.Span {
+	return spansBetween(0, 1, 2, 3, 50, 97, 98, 99, 100)
 }
 
 // edgeSets has every set of the first three, one middle, and the last three points.

@@ -180,24 +180,31 @@ func TestStoreOk(t *testing.T) {
 	}
 }
 
+// checkNext says what P28 does of a valid store that a table is set to, and that
+// the result is the only one.
+func checkNext(t *testing.T, s impl.Store, table []impl.Row, got impl.Store, ok bool) {
+	t.Helper()
+	want, wantOk := storeAfter(s, table)
+	if ok != wantOk || !sameStore(got, want) || !impl.StoreOk(got) {
+		t.Error(s, table, "is", got, ok, "and not", want, wantOk)
+	}
+	for stamp := range s.Now + 1 {
+		if !slices.Equal(impl.StoreAt(got, stamp), stateOf(s, stamp)) {
+			t.Error("history", s, table, stamp)
+		}
+	}
+	if ok && (got.Now != s.Now+1 || !slices.Equal(impl.StoreAt(got, got.Now), table)) {
+		t.Error("now", s, table, got)
+	}
+}
+
 // P28
 func TestHistoryIsNeverChanged(t *testing.T) {
 	tables := edgeTables()
 	for i, s := range goodStores(t) {
 		for _, table := range [][]impl.Row{nil, tables[i], tables[242-i], stateOf(s, s.Now), stateOf(s, 1), fullTable("y")} {
-			want, wantOk := storeAfter(s, table)
 			got, ok := impl.StoreSet(s, table)
-			if ok != wantOk || !sameStore(got, want) || !impl.StoreOk(got) {
-				t.Error("StoreSet", s, table, "is", got, ok, "and not", want, wantOk)
-			}
-			for stamp := range s.Now + 1 {
-				if !slices.Equal(impl.StoreAt(got, stamp), stateOf(s, stamp)) {
-					t.Error("history", s, table, stamp)
-				}
-			}
-			if ok && (got.Now != s.Now+1 || !slices.Equal(impl.StoreAt(got, got.Now), table)) {
-				t.Error("now", s, table, got)
-			}
+			checkNext(t, s, table, got, ok)
 		}
 	}
 }
